@@ -371,6 +371,19 @@ func checkNet(t *testing.T, n impl.Net) {
 	}
 }
 
+// netsOf calls check for the net of each set of some edges, valid or not.
+func netsOf(blocks string, edges []impl.Edge, check func(n impl.Net)) {
+	for set := range 1 << len(edges) {
+		n := impl.Net{Blocks: blocks}
+		for i, e := range edges {
+			if set>>i&1 == 1 {
+				n.Edges = append(n.Edges, e)
+			}
+		}
+		check(n)
+	}
+}
+
 // TestAllSmallNets goes through all sets of different edges between 2 or 3 blocks, and those between 4 that spare the entry and the exit.
 func TestAllSmallNets(t *testing.T) {
 	for _, blocks := range []string{"BA", "CAB", "ABCD"} {
@@ -382,15 +395,7 @@ func TestAllSmallNets(t *testing.T) {
 				}
 			}
 		}
-		for set := range 1 << len(pairs) {
-			n := impl.Net{Blocks: blocks}
-			for i, e := range pairs {
-				if set>>i&1 == 1 {
-					n.Edges = append(n.Edges, e)
-				}
-			}
-			checkNet(t, n)
-		}
+		netsOf(blocks, pairs, func(n impl.Net) { checkNet(t, n) })
 	}
 }
 
