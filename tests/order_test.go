@@ -347,15 +347,20 @@ func TestOrderOfSomeNets(t *testing.T) {
 	someNets(1000, true, check)
 }
 
+// walkByChance returns the run of picks that are thrown.
+func walkByChance(dice *rand.Rand, n impl.Net) string {
+	picks := make([]int, dice.Intn(40))
+	for i := range picks {
+		picks[i] = dice.Intn(100)
+	}
+	run, _ := impl.WalkRun(n, picks)
+	return run
+}
+
 func TestCutsOfSomeNets(t *testing.T) {
 	dice := rand.New(rand.NewSource(2))
 	someNets(3000, false, func(n impl.Net) {
-		picks := make([]int, dice.Intn(40))
-		for i := range picks {
-			picks[i] = dice.Intn(100)
-		}
-		run, _ := impl.WalkRun(n, picks)
-		checkCut(t, n, run)
+		checkCut(t, n, walkByChance(dice, n))
 		cover, _ := impl.CoverRuns(n)
 		for _, run := range cover {
 			checkCut(t, n, run)

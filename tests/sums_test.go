@@ -532,14 +532,22 @@ func TestSumsOfNetsWithWaysBack(t *testing.T) {
 	}
 }
 
-func TestSumsOfTextsThatAreNoTrees(t *testing.T) {
-	for _, tree := range []string{
-		"", "a", "abde", "abdefg", "abcdefgh", "abcde", "aefgh", "fedba", "aabde", "aaaaa", "abdez", "abdefz", "abdei", "ABDEF", "+abde", "abdef ", " abdef", "ab de", "abdef\n",
-		"abde\x00", "\x00\x00\x00\x00\x00", "abde\xff", "abdä", strings.Repeat("abdef", 100000),
-	} {
-		checkNoSums(t, net(twoTurns), tree)
+// noTrees has, for some acyclic nets, texts that are no trees of them.
+func noTrees() map[string][]string {
+	return map[string][]string{
+		twoTurns: {
+			"", "a", "abde", "abdefg", "abcdefgh", "abcde", "aefgh", "fedba", "aabde", "aaaaa", "abdez", "abdefz", "abdei", "ABDEF", "+abde", "abdef ", " abdef", "ab de", "abdef\n",
+			"abde\x00", "\x00\x00\x00\x00\x00", "abde\xff", "abdä", strings.Repeat("abdef", 100000),
+		},
+		diamond:  {"", "a", "ac", "bd", "ba", "abc", "aa", "az"},
+		pairNet:  {"a", "b", "ab", "z", " "},
+		"AB: AB": {"a", "z", "b"},
+		pastNet:  {"", "a", "d", "bc", "ab"},
 	}
-	for text, trees := range map[string][]string{diamond: {"", "a", "ac", "bd", "ba", "abc", "aa", "az"}, pairNet: {"a", "b", "ab", "z", " "}, "AB: AB": {"a", "z", "b"}, pastNet: {"", "a", "d", "bc", "ab"}} {
+}
+
+func TestSumsOfTextsThatAreNoTrees(t *testing.T) {
+	for text, trees := range noTrees() {
 		for _, tree := range trees {
 			checkNoSums(t, net(text), tree)
 		}
@@ -792,16 +800,22 @@ func TestSumsOfSmallNets(t *testing.T) {
 	})
 }
 
+// treeByChance returns the heaviest tree by weights that are thrown.
+func treeByChance(dice *rand.Rand, n impl.Net) string {
+	weights := make([]int, len(n.Edges))
+	for i := range weights {
+		weights[i] = dice.Intn(100)
+	}
+	tree, _ := impl.TreeOf(n, weights)
+	return tree
+}
+
 func TestSumsOfSomeNets(t *testing.T) {
 	dice := rand.New(rand.NewSource(7))
 	someNets(200, true, func(n impl.Net) {
 		runs, _ := impl.AllRuns(n)
 		for range 4 {
-			weights := make([]int, len(n.Edges))
-			for i := range weights {
-				weights[i] = dice.Intn(100)
-			}
-			tree, _ := impl.TreeOf(n, weights)
+			tree := treeByChance(dice, n)
 			checkSums(t, n, tree, runs)
 			checkPieces(t, n, tree, runs[:min(len(runs), 5)])
 		}
